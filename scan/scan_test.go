@@ -10,12 +10,11 @@ import (
 
 	"viaduct/api"
 	"viaduct/fault"
+	"viaduct/sample"
 )
 
 func atLine(k int, e api.Errno) error { return fault.At(api.AtLine, k, e) }
 func atByte(k int, e api.Errno) error { return fault.At(api.AtByte, k, e) }
-
-func sameError(a, b error) bool { return (a == nil) == (b == nil) && fault.Same(a, b) }
 
 func sameRows(a, b []Row) bool {
 	return slices.EqualFunc(a, b, func(x, y Row) bool {
@@ -26,7 +25,7 @@ func sameRows(a, b []Row) bool {
 func checkRows(t *testing.T, text string, want []Row, wantErr error) {
 	t.Helper()
 	rows, err := Rows(text)
-	if !sameRows(rows, want) || !sameError(err, wantErr) {
+	if !sameRows(rows, want) || !sample.SameError(err, wantErr) {
 		t.Errorf("Rows(%.60q): %.200v, %v; wanted %.200v, %v", text, rows, err, want, wantErr)
 	}
 }
@@ -98,7 +97,7 @@ func TestP2_1RowsEachByte(t *testing.T) {
 		text := "k\np" + one + "q\nz"
 		rows, err := Rows(text)
 		want, wantErr := model(text)
-		if !sameRows(rows, want) || !sameError(err, wantErr) {
+		if !sameRows(rows, want) || !sample.SameError(err, wantErr) {
 			t.Errorf("the byte %#x: %v, %v; wanted %v, %v", b, rows, err, want, wantErr)
 		}
 		if wrong := b != '\t' && b != '\n' && b != '\r' && (b < 0x20 || b > 0x7e); wrong != (err != nil) {
@@ -184,7 +183,7 @@ func TestRowsAreNewMemory(t *testing.T) {
 func checkNumber(t *testing.T, word string, most, want uint64, wantErr error) {
 	t.Helper()
 	n, err := Number(word, most)
-	if n != want || !sameError(err, wantErr) {
+	if n != want || !sample.SameError(err, wantErr) {
 		t.Errorf("Number(%.60q, %d) = %d, %v; wanted %d, %v", word, most, n, err, want, wantErr)
 	}
 }
@@ -240,7 +239,7 @@ func TestP2_2NumberOfEachShortWord(t *testing.T) {
 func checkSigned(t *testing.T, word string, want int, wantErr error) {
 	t.Helper()
 	n, err := Signed(word)
-	if n != want || !sameError(err, wantErr) {
+	if n != want || !sample.SameError(err, wantErr) {
 		t.Errorf("Signed(%.60q) = %d, %v; wanted %d, %v", word, n, err, want, wantErr)
 	}
 }
@@ -277,7 +276,7 @@ func TestP2_2Signed(t *testing.T) {
 func checkList(t *testing.T, word string, want []int, wantErr error) {
 	t.Helper()
 	list, err := List(word)
-	if !slices.Equal(list, want) || !sameError(err, wantErr) {
+	if !slices.Equal(list, want) || !sample.SameError(err, wantErr) {
 		t.Errorf("List(%.60q) = %.60v, %v; wanted %.60v, %v", word, list, err, want, wantErr)
 	}
 }
