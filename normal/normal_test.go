@@ -1,7 +1,6 @@
 package normal
 
 import (
-	"math"
 	"slices"
 	"testing"
 
@@ -61,81 +60,25 @@ func must(t *testing.T, f call, g api.Graph) api.Graph {
 	return made
 }
 
-// model: the normal graph, told pair by pair.
-func model(g api.Graph) api.Graph {
-	made := api.Graph{N: g.N}
-	for from := range g.N {
-		for to := range g.N {
-			cheapest := math.MaxInt
-			for _, arc := range g.Arcs {
-				if arc.From == from && arc.To == to {
-					cheapest = min(cheapest, arc.Weight)
-				}
-			}
-			if from != to && cheapest < math.MaxInt {
-				made.Arcs = append(made.Arcs, api.Arc{From: from, To: to, Weight: cheapest})
-			}
-		}
-	}
-	return made
-}
-
-// some calls f with all small graphs, and some greater ones with many parallel arcs.
-func some(f func(g api.Graph)) {
-	for n := range 4 {
-		for g := range sample.All(n, 5-n, 0, 1, 7) {
-			f(g)
-		}
-	}
-	dice := sample.Dice{Seed: 4}
-	for range 100 {
-		f(dice.Graph(1+dice.Below(12), dice.Below(200), 20))
-		f(dice.Graph(1+dice.Below(12), dice.Below(200), api.MaxWeight))
-	}
-}
-
-type wrongGraph struct {
-	g   api.Graph
-	err error
-}
-
-// wrong are graphs that are not right, with Check's error of each.
-func wrong() map[string]wrongGraph {
-	return map[string]wrongGraph{
-		"N below 0":        {graphOf(-1), api.ErrLimit},
-		"N least":          {graphOf(math.MinInt), api.ErrLimit},
-		"N above MaxNodes": {graphOf(api.MaxNodes + 1), api.ErrLimit},
-		"N greatest":       {graphOf(math.MaxInt), api.ErrLimit},
-		"too many arcs":    {graphOf(1, make([]row, api.MaxArcs+1)...), api.ErrLimit},
-		"no such node":     {graphOf(1, row{0, 1, 0}), atArc(0, api.ErrNode)},
-		"From below 0":     {graphOf(2, row{0, 1, 5}, row{-1, 1, 5}), atArc(1, api.ErrNode)},
-		"To below 0":       {graphOf(2, row{1, 0, 5}, row{1, 1, 5}, row{1, -1, 5}), atArc(2, api.ErrNode)},
-		"a loop too dear":  {graphOf(2, row{1, 1, api.MaxWeight + 1}), atArc(0, api.ErrWeight)},
-		"weight below 0":   {graphOf(2, row{0, 1, -1}, row{0, 1, 3}), atArc(0, api.ErrWeight)},
-		"a parallel arc":   {graphOf(2, row{0, 1, 3}, row{0, 1, api.MaxWeight + 1}), atArc(1, api.ErrWeight)},
-		"an unknown arc":   {graphOf(0, row{0, 0, 0}), atArc(0, api.ErrNode)},
-	}
-}
-
 func TestWrongGraphs(t *testing.T) {
-	for name, w := range wrong() {
+	for _, w := range sample.Wrong() {
 		for _, f := range []call{Of, Reverse} {
-			if made, err := f(w.g); !sample.SameError(err, w.err) || !sample.SameGraph(made, api.Graph{}) {
-				t.Errorf("%s: %.200v, %v, wanted %v", name, made, err, w.err)
+			if made, err := f(w.Graph); !sample.SameError(err, w.Err) || !sample.SameGraph(made, api.Graph{}) {
+				t.Errorf("%s: %.200v, %v, wanted %v", w.Name, made, err, w.Err)
 			}
 		}
-		if is, err := Is(w.g); is || !sample.SameError(err, w.err) {
-			t.Errorf("%s: Is: %v, %v, wanted %v", name, is, err, w.err)
+		if is, err := Is(w.Graph); is || !sample.SameError(err, w.Err) {
+			t.Errorf("%s: Is: %v, %v, wanted %v", w.Name, is, err, w.Err)
 		}
-		from, to, err := Degrees(w.g)
-		if len(from) != 0 || len(to) != 0 || !sample.SameError(err, w.err) {
-			t.Errorf("%s: Degrees: %.200v, %.200v, %v, wanted %v", name, from, to, err, w.err)
+		from, to, err := Degrees(w.Graph)
+		if len(from) != 0 || len(to) != 0 || !sample.SameError(err, w.Err) {
+			t.Errorf("%s: Degrees: %.200v, %.200v, %v, wanted %v", w.Name, from, to, err, w.Err)
 		}
 		right := graphOf(2, row{0, 1, 5})
-		checkMerge(t, w.g, right, api.Graph{}, w.err)
-		checkMerge(t, right, w.g, api.Graph{}, w.err)
-		for _, other := range wrong() {
-			checkMerge(t, w.g, other.g, api.Graph{}, w.err)
+		checkMerge(t, w.Graph, right, api.Graph{}, w.Err)
+		checkMerge(t, right, w.Graph, api.Graph{}, w.Err)
+		for _, other := range sample.Wrong() {
+			checkMerge(t, w.Graph, other.Graph, api.Graph{}, w.Err)
 		}
 	}
 }
@@ -145,7 +88,9 @@ func TestP4_1Of(t *testing.T) {
 	checkMade(t, "Of", Of, api.Graph{}, api.Graph{})
 	checkMade(t, "Of", Of, graphOf(1, row{0, 0, 0}), graphOf(1))
 	checkMade(t, "Of", Of, graphOf(2, row{0, 1, api.MaxWeight}, row{0, 1, 0}, row{1, 0, api.MaxWeight}), graphOf(2, row{0, 1, 0}, row{1, 0, api.MaxWeight}))
-	some(func(g api.Graph) { checkMade(t, "Of", Of, g, model(g)) })
+	for g := range sample.Some() {
+		checkMade(t, "Of", Of, g, sample.Normal(g))
+	}
 }
 
 func TestP4_1Is(t *testing.T) {
@@ -159,17 +104,17 @@ func TestP4_1Is(t *testing.T) {
 	checkIs(t, graphOf(3, row{0, 1, 3}, row{2, 0, 5}, row{2, 2, 0}), false)
 	checkIs(t, api.Graph{}, true)
 	checkIs(t, api.Graph{Arcs: []api.Arc{}}, true)
-	some(func(g api.Graph) {
-		checkIs(t, g, sample.SameGraph(g, model(g)))
-		checkIs(t, model(g), true)
-	})
+	for g := range sample.Some() {
+		checkIs(t, g, sample.SameGraph(g, sample.Normal(g)))
+		checkIs(t, sample.Normal(g), true)
+	}
 }
 
 func TestP4_2Reverse(t *testing.T) {
 	checkMade(t, "Reverse", Reverse, graphOf(2, row{0, 1, 4}, row{1, 1, 2}), graphOf(2, row{1, 0, 4}, row{1, 1, 2}))
 	checkMade(t, "Reverse", Reverse, api.Graph{}, api.Graph{})
 	checkMade(t, "Reverse", Reverse, graphOf(3, row{2, 1, 0}, row{0, 2, 7}, row{2, 1, 0}), graphOf(3, row{1, 2, 0}, row{2, 0, 7}, row{1, 2, 0}))
-	some(func(g api.Graph) {
+	for g := range sample.Some() {
 		turned := must(t, Reverse, g)
 		if turned.N != g.N || len(turned.Arcs) != len(g.Arcs) {
 			t.Fatalf("Reverse(%v): %v", g, turned)
@@ -180,7 +125,7 @@ func TestP4_2Reverse(t *testing.T) {
 			}
 		}
 		checkMade(t, "Reverse", Reverse, turned, g)
-	})
+	}
 }
 
 func TestP4_3Merge(t *testing.T) {
@@ -219,7 +164,7 @@ func TestP4_4Degrees(t *testing.T) {
 	checkDegrees(t, api.Graph{}, nil, nil)
 	checkDegrees(t, graphOf(3), []int{0, 0, 0}, []int{0, 0, 0})
 	checkDegrees(t, graphOf(3, row{2, 0, 5}, row{2, 0, 5}, row{2, 2, 0}, row{2, 1, 1}), []int{0, 0, 4}, []int{2, 1, 1})
-	some(func(g api.Graph) {
+	for g := range sample.Some() {
 		from, to := make([]int, g.N), make([]int, g.N)
 		for node := range g.N {
 			for _, arc := range g.Arcs {
@@ -232,7 +177,7 @@ func TestP4_4Degrees(t *testing.T) {
 			}
 		}
 		checkDegrees(t, g, from, to)
-	})
+	}
 }
 
 func TestGreatestGraphs(t *testing.T) {
@@ -266,37 +211,37 @@ func TestGreatestGraphs(t *testing.T) {
 }
 
 func TestP4_5OnceIsEnough(t *testing.T) {
-	some(func(g api.Graph) {
+	for g := range sample.Some() {
 		once := must(t, Of, g)
 		checkIs(t, once, true)
 		checkMade(t, "Of", Of, once, once)
 		checkMade(t, "Of", Of, must(t, Reverse, g), must(t, Of, must(t, Reverse, once)))
-	})
+	}
 }
 
 func TestP4_5Distances(t *testing.T) {
-	some(func(g api.Graph) {
+	for g := range sample.Some() {
 		far, farMade := sample.Distances(g), sample.Distances(must(t, Of, g))
 		if !slices.EqualFunc(far, farMade, slices.Equal) {
 			t.Errorf("the distances of %v: %v, of its normal graph: %v", g, far, farMade)
 		}
-	})
+	}
 }
 
 func TestP4_5CheaperOfBoth(t *testing.T) {
 	last := graphOf(0)
-	some(func(g api.Graph) {
+	for g := range sample.Some() {
 		other := last
 		last = g
 		if other.N != g.N {
-			return
+			continue
 		}
 		both, err := Merge(g, other)
 		if err != nil {
 			t.Fatalf("Merge(%v, %v): %v", g, other, err)
 		}
 		weights := map[[2]int]int{}
-		for _, arc := range slices.Concat(model(g).Arcs, model(other).Arcs) {
+		for _, arc := range slices.Concat(sample.Normal(g).Arcs, sample.Normal(other).Arcs) {
 			ends := [2]int{arc.From, arc.To}
 			if known, there := weights[ends]; !there || arc.Weight < known {
 				weights[ends] = arc.Weight
@@ -311,7 +256,7 @@ func TestP4_5CheaperOfBoth(t *testing.T) {
 				t.Errorf("Of(Merge(%v, %v)): %v, the arc %v", g, other, made, arc)
 			}
 		}
-	})
+	}
 }
 
 // makers: the calls that answer a graph. Merging with a graph without arcs is one, as the argument itself might be answered there.
@@ -363,11 +308,11 @@ func TestMemoryOfDegrees(t *testing.T) {
 
 // Whatever a call makes is right: the next layers ask no more of it.
 func TestMadeIsRight(t *testing.T) {
-	some(func(g api.Graph) {
+	for g := range sample.Some() {
 		for name, f := range makers() {
 			if made := must(t, f, g); gtext.Check(made) != nil {
 				t.Errorf("%s(%v): %v", name, g, made)
 			}
 		}
-	})
+	}
 }

@@ -3,13 +3,14 @@ package sample
 
 import (
 	"iter"
+	"math"
 	"slices"
 
 	"viaduct/api"
 	"viaduct/fault"
 )
 
-// spareRoom is how many arcs lie behind a list that Roomy makes.
+// spareRoom is how many elements lie behind a list that is made roomy.
 const spareRoom = 3
 
 // SameError: are both nil, or have both the same number and the same places?
@@ -33,22 +34,39 @@ func Graph(n int, arcs ...[3]int) api.Graph {
 
 // Roomy: the graph with arcs that no graph may have in the spare room of its list. Room: a copy of that list, spare room too.
 func Roomy(g api.Graph) api.Graph {
-	arcs := make([]api.Arc, len(g.Arcs), len(g.Arcs)+spareRoom)
-	copy(arcs, g.Arcs)
-	Spoil(arcs[len(arcs):])
-	return api.Graph{N: g.N, Arcs: arcs}
+	return api.Graph{N: g.N, Arcs: RoomyList(g.Arcs, oddArc())}
 }
 
 func Room(g api.Graph) []api.Arc {
-	return slices.Clone(g.Arcs[:cap(g.Arcs)])
+	return RoomOf(g.Arcs)
 }
 
 // Spoil: writes arcs that no graph may have over a list and its spare room.
 func Spoil(arcs []api.Arc) {
-	arcs = arcs[:cap(arcs)]
-	for i := range arcs {
-		arcs[i] = api.Arc{From: -7, To: -7, Weight: -7}
+	SpoilList(arcs, oddArc())
+}
+
+// RoomyList, RoomOf, SpoilList: the same for lists of any kind.
+func RoomyList[T any](list []T, odd T) []T {
+	roomy := make([]T, len(list), len(list)+spareRoom)
+	copy(roomy, list)
+	SpoilList(roomy[len(roomy):], odd)
+	return roomy
+}
+
+func RoomOf[T any](list []T) []T {
+	return slices.Clone(list[:cap(list)])
+}
+
+func SpoilList[T any](list []T, odd T) {
+	list = list[:cap(list)]
+	for i := range list {
+		list[i] = odd
 	}
+}
+
+func oddArc() api.Arc {
+	return api.Arc{From: -7, To: -7, Weight: -7}
 }
 
 // All: every graph of n nodes with at most that many arcs, each of one of these weights.
@@ -123,4 +141,71 @@ func Distances(g api.Graph) [][]uint64 {
 		}
 	}
 	return far
+}
+
+// Normal: the normal graph, told pair by pair.
+func Normal(g api.Graph) api.Graph {
+	made := api.Graph{N: g.N}
+	for from := range g.N {
+		for to := range g.N {
+			cheapest := math.MaxInt
+			for _, arc := range g.Arcs {
+				if arc.From == from && arc.To == to {
+					cheapest = min(cheapest, arc.Weight)
+				}
+			}
+			if from != to && cheapest < math.MaxInt {
+				made.Arcs = append(made.Arcs, api.Arc{From: from, To: to, Weight: cheapest})
+			}
+		}
+	}
+	return made
+}
+
+// Some: all small graphs, and some greater ones with many parallel arcs.
+func Some() iter.Seq[api.Graph] {
+	return func(yield func(api.Graph) bool) {
+		for n := range 4 {
+			for g := range All(n, 5-n, 0, 1, 7) {
+				if !yield(g) {
+					return
+				}
+			}
+		}
+		dice := Dice{Seed: 4}
+		for range 100 {
+			for _, most := range []int{20, api.MaxWeight} {
+				if !yield(dice.Graph(1+dice.Below(12), dice.Below(200), most)) {
+					return
+				}
+			}
+		}
+	}
+}
+
+// WrongGraph is a graph that is not right, with gtext.Check's error of it.
+type WrongGraph struct {
+	Name  string
+	Graph api.Graph
+	Err   error
+}
+
+// Wrong: graphs that are not right.
+func Wrong() []WrongGraph {
+	type row = [3]int
+	atArc := func(i int, e api.Errno) error { return fault.At(api.AtArc, i, e) }
+	return []WrongGraph{
+		{"N below 0", Graph(-1), api.ErrLimit},
+		{"N least", Graph(math.MinInt), api.ErrLimit},
+		{"N above MaxNodes", Graph(api.MaxNodes + 1), api.ErrLimit},
+		{"N greatest", Graph(math.MaxInt), api.ErrLimit},
+		{"too many arcs", Graph(1, make([]row, api.MaxArcs+1)...), api.ErrLimit},
+		{"no such node", Graph(1, row{0, 1, 0}), atArc(0, api.ErrNode)},
+		{"From below 0", Graph(2, row{0, 1, 5}, row{-1, 1, 5}), atArc(1, api.ErrNode)},
+		{"To below 0", Graph(2, row{1, 0, 5}, row{1, 1, 5}, row{1, -1, 5}), atArc(2, api.ErrNode)},
+		{"a loop too dear", Graph(2, row{1, 1, api.MaxWeight + 1}), atArc(0, api.ErrWeight)},
+		{"weight below 0", Graph(2, row{0, 1, -1}, row{0, 1, 3}), atArc(0, api.ErrWeight)},
+		{"a parallel arc", Graph(2, row{0, 1, 3}, row{0, 1, api.MaxWeight + 1}), atArc(1, api.ErrWeight)},
+		{"an unknown arc", Graph(0, row{0, 0, 0}), atArc(0, api.ErrNode)},
+	}
 }

@@ -7,6 +7,7 @@ import (
 
 	"viaduct/api"
 	"viaduct/fault"
+	"viaduct/gtext"
 )
 
 func TestSameError(t *testing.T) {
@@ -88,5 +89,53 @@ func TestDice(t *testing.T) {
 	}
 	if len(seen) != 7 {
 		t.Errorf("the weights are %v", seen)
+	}
+}
+
+func TestRoomyList(t *testing.T) {
+	list := []uint32{1, 2}
+	roomy := RoomyList(list, 9)
+	if !slices.Equal(RoomOf(roomy), []uint32{1, 2, 9, 9, 9}) || len(roomy) != 2 {
+		t.Errorf("RoomyList: %v", RoomOf(roomy))
+	}
+	room := RoomOf(roomy)
+	SpoilList(roomy[:1], 8)
+	if !slices.Equal(RoomOf(roomy), []uint32{8, 8, 8, 8, 8}) || !slices.Equal(room, []uint32{1, 2, 9, 9, 9}) || list[0] != 1 {
+		t.Errorf("SpoilList: %v, and %v, of %v", RoomOf(roomy), room, list)
+	}
+}
+
+func TestNormal(t *testing.T) {
+	g := Graph(3, [3]int{2, 0, 5}, [3]int{0, 1, 4}, [3]int{1, 1, 0}, [3]int{0, 1, 3}, [3]int{0, 1, 3})
+	if made := Normal(g); !SameGraph(made, Graph(3, [3]int{0, 1, 3}, [3]int{2, 0, 5})) {
+		t.Errorf("Normal: %v", made)
+	}
+}
+
+func TestSome(t *testing.T) {
+	count, most := 0, 0
+	for g := range Some() {
+		count++
+		most = max(most, len(g.Arcs))
+	}
+	if count < 1000 || most < 150 {
+		t.Errorf("%d graphs, of at most %d arcs", count, most)
+	}
+	for _, end := range []int{1, 5, 100, count - 1} {
+		seen := 0
+		for range Some() {
+			seen++
+			if seen == end {
+				break
+			}
+		}
+	}
+}
+
+func TestWrong(t *testing.T) {
+	for _, w := range Wrong() {
+		if err := gtext.Check(w.Graph); err == nil || !SameError(err, w.Err) {
+			t.Errorf("%s: %v, wanted %v", w.Name, err, w.Err)
+		}
 	}
 }
