@@ -133,47 +133,6 @@ func TestP5_1WrongGraphs(t *testing.T) {
 	}
 }
 
-type wrongArrays struct {
-	name string
-	c    Csr
-	err  error
-}
-
-// wrong are arrays that are not right, with Check's error of each.
-func wrong() []wrongArrays {
-	return []wrongArrays{
-		{"no First", Csr{}, api.ErrShape},
-		{"an empty First", Csr{First: ints{}, To: ints{}, Weight: ints{}}, api.ErrShape},
-		{"no First, but arcs", Csr{To: ints{0}, Weight: ints{0}}, api.ErrShape},
-		{"First begins with 1", Csr{First: ints{1}}, api.ErrShape},
-		{"First begins with 1, with an arc", Csr{First: ints{1, 1, 1}, To: ints{1}, Weight: ints{1}}, api.ErrShape},
-		{"First begins below 0", Csr{First: ints{-1, 0}}, api.ErrShape},
-		{"First ends too early", Csr{First: ints{0, 0, 0}, To: ints{1}, Weight: ints{1}}, api.ErrShape},
-		{"First ends too late", Csr{First: ints{0, 2, 2}, To: ints{1}, Weight: ints{1}}, api.ErrShape},
-		{"First ends far off", Csr{First: ints{0, math.MaxInt}}, api.ErrShape},
-		{"First ends below 0", Csr{First: ints{0, math.MinInt}}, api.ErrShape},
-		{"a weight too few", Csr{First: ints{0, 1, 1}, To: ints{1}}, api.ErrShape},
-		{"a weight too many", Csr{First: ints{0, 1, 1}, To: ints{1}, Weight: ints{1, 1}}, api.ErrShape},
-		{"First falls", Csr{First: ints{0, 2, 1, 1}, To: ints{1}, Weight: ints{1}}, atNode(1, api.ErrShape)},
-		{"First falls at the end", Csr{First: ints{0, 1, 1, 0}}, atNode(2, api.ErrShape)},
-		{"First falls below 0", Csr{First: ints{0, -1, 0}}, atNode(0, api.ErrShape)},
-		{"First falls from afar", Csr{First: ints{0, math.MaxInt, math.MinInt, 0}}, atNode(1, api.ErrShape)},
-		{"First falls twice", Csr{First: ints{0, 3, 2, 1, 1}, To: ints{9}, Weight: ints{1}}, atNode(1, api.ErrShape)},
-		{"parallel arcs", Csr{First: ints{0, 2, 2}, To: ints{1, 1}, Weight: ints{3, 4}}, atArc(1, api.ErrShape)},
-		{"arcs out of order", Csr{First: ints{0, 2, 2, 2}, To: ints{2, 1}, Weight: ints{3, 4}}, atArc(1, api.ErrShape)},
-		{"a loop", Csr{First: ints{0, 1}, To: ints{0}, Weight: ints{1}}, atArc(0, api.ErrShape)},
-		{"a loop of the last node", Csr{First: ints{0, 1, 3}, To: ints{1, 0, 1}, Weight: ints{1, 1, 1}}, atArc(2, api.ErrShape)},
-		{"no such node", Csr{First: ints{0, 1, 1}, To: ints{2}, Weight: ints{1}}, atArc(0, api.ErrNode)},
-		{"a node below 0", Csr{First: ints{0, 1, 1}, To: ints{-1}, Weight: ints{1}}, atArc(0, api.ErrNode)},
-		{"a node far off", Csr{First: ints{0, 0, 1}, To: ints{math.MaxInt}, Weight: ints{1}}, atArc(0, api.ErrNode)},
-		{"a node far below 0", Csr{First: ints{0, 1, 2}, To: ints{1, math.MinInt}, Weight: ints{1, 1}}, atArc(1, api.ErrNode)},
-		{"too dear", Csr{First: ints{0, 1, 2}, To: ints{1, 0}, Weight: ints{api.MaxWeight, api.MaxWeight + 1}}, atArc(1, api.ErrWeight)},
-		{"far too dear", Csr{First: ints{0, 1, 1}, To: ints{1}, Weight: ints{math.MaxInt}}, atArc(0, api.ErrWeight)},
-		{"a weight below 0", Csr{First: ints{0, 1, 2}, To: ints{1, 0}, Weight: ints{0, -1}}, atArc(1, api.ErrWeight)},
-		{"a weight far below 0", Csr{First: ints{0, 1, 1}, To: ints{1}, Weight: ints{math.MinInt}}, atArc(0, api.ErrWeight)},
-	}
-}
-
 func TestCheck(t *testing.T) {
 	checkCheck(t, exampleArrays(), nil)
 	checkCheck(t, Csr{First: ints{0}}, nil)
@@ -183,8 +142,8 @@ func TestCheck(t *testing.T) {
 	// What the arc ahead of it leads to counts only where both lead from the same node.
 	checkCheck(t, Csr{First: ints{0, 1, 3, 4}, To: ints{2, 0, 2, 1}, Weight: ints{1, 1, 1, 1}}, nil)
 	checkCheck(t, Csr{First: ints{0, 1, 1, 2, 2}, To: ints{1, 1}, Weight: ints{1, 1}}, nil)
-	for _, w := range wrong() {
-		t.Run(w.name, func(t *testing.T) { checkCheck(t, w.c, w.err) })
+	for _, w := range sample.WrongArrays() {
+		t.Run(w.Name, func(t *testing.T) { checkCheck(t, Csr(w.Arrays), w.Err) })
 	}
 }
 
@@ -357,13 +316,13 @@ func TestP5_2Find(t *testing.T) {
 
 // Whatever else applies, arrays that are not right are told first.
 func TestP5_2WrongArrays(t *testing.T) {
-	for _, w := range wrong() {
-		t.Run(w.name, func(t *testing.T) {
-			checkGraph(t, w.c, api.Graph{}, w.err)
+	for _, w := range sample.WrongArrays() {
+		t.Run(w.Name, func(t *testing.T) {
+			checkGraph(t, Csr(w.Arrays), api.Graph{}, w.Err)
 			for _, v := range []int{0, 1, -1, math.MaxInt} {
-				checkRow(t, w.c, v, nil, w.err)
-				checkFind(t, w.c, v, 0, 0, w.err)
-				checkFind(t, w.c, 0, v, 0, w.err)
+				checkRow(t, Csr(w.Arrays), v, nil, w.Err)
+				checkFind(t, Csr(w.Arrays), v, 0, 0, w.Err)
+				checkFind(t, Csr(w.Arrays), 0, v, 0, w.Err)
 			}
 		})
 	}
@@ -450,21 +409,12 @@ func TestGreatestGraphs(t *testing.T) {
 	checkFind(t, most, 511, 513, 0, api.ErrNoWalk)
 }
 
-// roomy: the arrays with numbers that stand in none behind their ends. arrays: the three, one by one.
-func roomy(c Csr) Csr {
-	return Csr{First: sample.RoomyList(c.First, -7), To: sample.RoomyList(c.To, -7), Weight: sample.RoomyList(c.Weight, -7)}
-}
+// roomy: the arrays with numbers that stand in none behind their ends. room: copies of the three, spare room too.
+func roomy(c Csr) Csr { return Csr(sample.RoomyArrays(sample.Arrays(c))) }
 
-func arrays(c Csr) []ints { return []ints{c.First, c.To, c.Weight} }
+func room(c Csr) []ints { return sample.RoomOfArrays(sample.Arrays(c)) }
 
-// room: copies of the three arrays, spare room too.
-func room(c Csr) []ints {
-	var rooms []ints
-	for _, list := range arrays(c) {
-		rooms = append(rooms, sample.RoomOf(list))
-	}
-	return rooms
-}
+func arrays(c Csr) []ints { return sample.Arrays(c).Lists() }
 
 func TestMemoryOfArrays(t *testing.T) {
 	for _, f := range []maker{Build, Back} {
@@ -515,9 +465,7 @@ func TestMemoryOfAnswers(t *testing.T) {
 		if !slices.EqualFunc(room(c), before, slices.Equal) {
 			t.Errorf("the arrays that were handed in are now %v, they were %v", room(c), before)
 		}
-		for _, list := range arrays(c) {
-			sample.SpoilList(list, -7)
-		}
+		sample.SpoilArrays(sample.Arrays(c))
 		if !slices.Equal(other, kept) {
 			t.Errorf("the answer is now %v, it was %v", other, kept)
 		}
@@ -533,12 +481,12 @@ func TestSpareRoom(t *testing.T) {
 	checkRow(t, c, 2, graphOf(3, row{2, 0, 5}).Arcs, nil)
 	checkFind(t, c, 2, 0, 5, nil)
 	checkFind(t, c, 2, 1, 0, api.ErrNoWalk)
-	for _, w := range wrong() {
-		wide := roomy(w.c)
+	for _, w := range sample.WrongArrays() {
+		wide := roomy(Csr(w.Arrays))
 		kept := room(wide)
-		checkCheck(t, wide, w.err)
+		checkCheck(t, wide, w.Err)
 		if !slices.EqualFunc(room(wide), kept, slices.Equal) {
-			t.Errorf("%s: the arrays are now %v", w.name, room(wide))
+			t.Errorf("%s: the arrays are now %v", w.Name, room(wide))
 		}
 	}
 	if !slices.EqualFunc(room(c), before, slices.Equal) {

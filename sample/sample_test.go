@@ -6,6 +6,7 @@ import (
 	"testing"
 
 	"viaduct/api"
+	"viaduct/csr"
 	"viaduct/fault"
 	"viaduct/gtext"
 )
@@ -135,6 +136,28 @@ func TestSome(t *testing.T) {
 func TestWrong(t *testing.T) {
 	for _, w := range Wrong() {
 		if err := gtext.Check(w.Graph); err == nil || !SameError(err, w.Err) {
+			t.Errorf("%s: %v, wanted %v", w.Name, err, w.Err)
+		}
+	}
+}
+
+func TestRoomyArrays(t *testing.T) {
+	a := RoomyArrays(Arrays{First: []int{0, 1, 1}, To: []int{1}, Weight: []int{5}})
+	want := [][]int{{0, 1, 1, -7, -7, -7}, {1, -7, -7, -7}, {5, -7, -7, -7}}
+	if !slices.EqualFunc(RoomOfArrays(a), want, slices.Equal) || len(a.First) != 3 || len(a.To) != 1 || len(a.Weight) != 1 {
+		t.Errorf("RoomyArrays: %v", RoomOfArrays(a))
+	}
+	SpoilArrays(a)
+	for i, list := range a.Lists() {
+		if !slices.Equal(RoomOf(list), slices.Repeat([]int{-7}, len(want[i]))) {
+			t.Errorf("SpoilArrays: %v", RoomOf(list))
+		}
+	}
+}
+
+func TestWrongArrays(t *testing.T) {
+	for _, w := range WrongArrays() {
+		if err := csr.Check(csr.Csr(w.Arrays)); err == nil || !SameError(err, w.Err) {
 			t.Errorf("%s: %v, wanted %v", w.Name, err, w.Err)
 		}
 	}
