@@ -12,6 +12,7 @@ import (
 	"viaduct/rank"
 	"viaduct/sample"
 	"viaduct/shorts"
+	"viaduct/sound"
 )
 
 type (
@@ -376,6 +377,9 @@ func checkMade(t *testing.T, g api.Graph, h api.Hier) {
 	t.Helper()
 	if err := hier.Check(h); err != nil {
 		t.Fatalf("of %v: %v is not in form: %v", brief(g), brief(h), err)
+	}
+	if err := sound.Check(h); err != nil {
+		t.Errorf("of %v: %v is not true: %v", brief(g), brief(h), err)
 	}
 	if r := sample.FirstFalse(h); r >= 0 {
 		t.Errorf("of %v: %v is false at the rank %d", brief(g), brief(h), r)

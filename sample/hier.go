@@ -99,6 +99,16 @@ func Doubling(n int, weight uint64) api.Hier {
 
 // Contracted: the hierarchy of a graph along a list of its nodes, by the plainest contraction: a shortcut for each way through a node, unless there is an arc no dearer.
 func Contracted(g api.Graph, order []int) api.Hier {
+	return contracted(g, order, func(isDearer bool) bool { return isDearer })
+}
+
+// Loose: the same, but of the ways so many in a hundred are taken amiss: without a shortcut where one is needed, with one where none is. So it is in form, and true by luck alone; and its shortcuts may be dearer than the arcs in whose places they stand.
+func (d *Dice) Loose(g api.Graph, order []int, percent int) api.Hier {
+	return contracted(g, order, func(isDearer bool) bool { return isDearer != (d.Below(100) < percent) })
+}
+
+// contracted asks of each way through a node whether it has a shortcut, telling whether what leads there is dearer, or nothing leads there.
+func contracted(g api.Graph, order []int, takes func(isDearer bool) bool) api.Hier {
 	h := api.Hier{UpFirst: []uint32{0}, DownFirst: []uint32{0}}
 	arcs := arcsByRanks(g, order)
 	via := map[[2]int]int{}
@@ -114,7 +124,7 @@ func Contracted(g api.Graph, order []int) api.Hier {
 		}
 		h.UpFirst = append(h.UpFirst, uint32(len(h.Up)))
 		h.DownFirst = append(h.DownFirst, uint32(len(h.Down)))
-		contract(arcs, via, rank, g.N)
+		contract(arcs, via, rank, g.N, takes)
 	}
 	for rank := range order {
 		for i := h.UpFirst[rank]; i < h.UpFirst[rank+1]; i++ {
@@ -137,13 +147,13 @@ func arcsByRanks(g api.Graph, order []int) map[[2]int]uint64 {
 }
 
 // contract puts the shortcuts by way of a rank among the arcs of those above it.
-func contract(arcs map[[2]int]uint64, via map[[2]int]int, rank, n int) {
+func contract(arcs map[[2]int]uint64, via map[[2]int]int, rank, n int, takes func(isDearer bool) bool) {
 	for u := rank + 1; u < n; u++ {
 		for w := rank + 1; w < n; w++ {
 			in, enters := arcs[[2]int{u, rank}]
 			out, leaves := arcs[[2]int{rank, w}]
 			known, has := arcs[[2]int{u, w}]
-			if u != w && enters && leaves && (!has || known > in+out) {
+			if u != w && enters && leaves && takes(!has || known > in+out) {
 				arcs[[2]int{u, w}], via[[2]int{u, w}] = in+out, rank
 			}
 		}

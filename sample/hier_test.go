@@ -19,6 +19,29 @@ func TestContracted(t *testing.T) {
 	}
 }
 
+func TestLoose(t *testing.T) {
+	dice := Dice{Seed: 11}
+	seen, dearer := map[int]int{}, 0
+	for range 1000 {
+		n := 2 + dice.Below(6)
+		g, order := dice.Graph(n, dice.Below(5*n), 9), dice.Shuffled(n)
+		if h := dice.Loose(g, order, 0); !SameHier(h, Contracted(g, order)) {
+			t.Errorf("Loose without a way amiss: %v", h)
+		}
+		h := dice.Loose(g, order, 30)
+		if err := hier.Check(h); err != nil {
+			t.Errorf("Loose: %v, %v", h, err)
+		}
+		seen[FirstFalse(h)]++
+		if made, err := hier.Graph(h); err != nil || len(made.Arcs) < len(Normal(g).Arcs) {
+			dearer++
+		}
+	}
+	if seen[-1] < 100 || seen[0] < 100 || seen[1] < 50 || seen[2] < 20 || dearer < 100 {
+		t.Errorf("Loose: by the rank at which they are false: %v; %d with a shortcut in an arc's place", seen, dearer)
+	}
+}
+
 func TestFlat(t *testing.T) {
 	h := Flat(4, 4, 99)
 	if !slices.Equal(h.UpFirst, []uint32{0, 3, 4, 4, 4}) || !slices.Equal(h.DownFirst, []uint32{0, 3, 5, 6, 6}) || len(h.Up) != 4 || len(h.Down) != 6 {
