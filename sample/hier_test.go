@@ -110,7 +110,7 @@ func TestWrongHiers(t *testing.T) {
 func TestRoomyHier(t *testing.T) {
 	h := RoomyHier(Three())
 	room := RoomOfHier(h)
-	if !SameHier(h, Three()) || len(room.Node) != 6 || len(room.Up) != 5 || room.UpFirst[4] != oddRank || room.Down[1] != oddLink() {
+	if !SameHier(h, Three()) || len(room.Node) != 3+spareRoom || len(room.Up) != 2+spareRoom || room.UpFirst[4] != oddRank || room.Down[1] != oddLink() {
 		t.Errorf("RoomyHier: %v", room)
 	}
 	same := CopyHier(h)

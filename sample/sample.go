@@ -10,8 +10,8 @@ import (
 	"viaduct/fault"
 )
 
-// spareRoom is how many elements lie behind a list that is made roomy.
-const spareRoom = 3
+// spareRoom is how many elements lie behind a list that is made roomy: more than a call puts behind a list that it should have copied.
+const spareRoom = 9
 
 // SameError: are both nil, or have both the same number and the same places?
 func SameError(a, b error) bool {
@@ -119,6 +119,15 @@ func (d *Dice) Graph(n, m, most int) api.Graph {
 		g.Arcs = append(g.Arcs, api.Arc{From: d.Below(n), To: d.Below(n), Weight: d.Below(most + 1)})
 	}
 	return g
+}
+
+// Bytes: n bytes.
+func (d *Dice) Bytes(n int) []byte {
+	list := make([]byte, n)
+	for i := range list {
+		list[i] = byte(d.Below(1 << 8))
+	}
+	return list
 }
 
 // Distances: those of a graph, the row's node to the column's, Unreached where there is no walk.

@@ -54,14 +54,19 @@ func TestAll(t *testing.T) {
 	}
 }
 
+// withRoom: a list and the odd elements behind it that make it roomy.
+func withRoom[T any](odd T, list ...T) []T {
+	return append(list, slices.Repeat([]T{odd}, spareRoom)...)
+}
+
 func TestRoomy(t *testing.T) {
 	g := Roomy(Graph(2, [3]int{0, 1, 5}))
 	odd := api.Arc{From: -7, To: -7, Weight: -7}
-	if want := []api.Arc{{From: 0, To: 1, Weight: 5}, odd, odd, odd}; !slices.Equal(Room(g), want) || len(g.Arcs) != 1 {
+	if want := withRoom(odd, api.Arc{From: 0, To: 1, Weight: 5}); !slices.Equal(Room(g), want) || len(g.Arcs) != 1 {
 		t.Errorf("Roomy: %v", Room(g))
 	}
 	Spoil(g.Arcs)
-	if !slices.Equal(Room(g), []api.Arc{odd, odd, odd, odd}) {
+	if !slices.Equal(Room(g), withRoom(odd, odd)) {
 		t.Errorf("Spoil: %v", Room(g))
 	}
 }
@@ -93,15 +98,30 @@ func TestDice(t *testing.T) {
 	}
 }
 
+func TestBytes(t *testing.T) {
+	a, b := Dice{Seed: 3}, Dice{Seed: 3}
+	list := a.Bytes(5000)
+	if !slices.Equal(list, b.Bytes(5000)) || len(a.Bytes(0)) != 0 {
+		t.Error("the same seed gives other bytes")
+	}
+	seen := map[byte]bool{}
+	for _, v := range list {
+		seen[v] = true
+	}
+	if len(list) != 5000 || len(seen) != 256 {
+		t.Errorf("%d bytes, %d of them unlike", len(list), len(seen))
+	}
+}
+
 func TestRoomyList(t *testing.T) {
 	list := []uint32{1, 2}
 	roomy := RoomyList(list, 9)
-	if !slices.Equal(RoomOf(roomy), []uint32{1, 2, 9, 9, 9}) || len(roomy) != 2 {
+	if !slices.Equal(RoomOf(roomy), withRoom[uint32](9, 1, 2)) || len(roomy) != 2 {
 		t.Errorf("RoomyList: %v", RoomOf(roomy))
 	}
 	room := RoomOf(roomy)
 	SpoilList(roomy[:1], 8)
-	if !slices.Equal(RoomOf(roomy), []uint32{8, 8, 8, 8, 8}) || !slices.Equal(room, []uint32{1, 2, 9, 9, 9}) || list[0] != 1 {
+	if !slices.Equal(RoomOf(roomy), withRoom[uint32](8, 8, 8)) || !slices.Equal(room, withRoom[uint32](9, 1, 2)) || list[0] != 1 {
 		t.Errorf("SpoilList: %v, and %v, of %v", RoomOf(roomy), room, list)
 	}
 }
@@ -143,7 +163,7 @@ func TestWrong(t *testing.T) {
 
 func TestRoomyArrays(t *testing.T) {
 	a := RoomyArrays(Arrays{First: []int{0, 1, 1}, To: []int{1}, Weight: []int{5}})
-	want := [][]int{{0, 1, 1, -7, -7, -7}, {1, -7, -7, -7}, {5, -7, -7, -7}}
+	want := [][]int{withRoom(-7, 0, 1, 1), withRoom(-7, 1), withRoom(-7, 5)}
 	if !slices.EqualFunc(RoomOfArrays(a), want, slices.Equal) || len(a.First) != 3 || len(a.To) != 1 || len(a.Weight) != 1 {
 		t.Errorf("RoomyArrays: %v", RoomOfArrays(a))
 	}
