@@ -249,20 +249,9 @@ func TestP17_3Lists(t *testing.T) {
 	}
 }
 
-// turned: a copy with those bits of 32 neighbouring ones turned over, from the bit i on; those beyond the end are left out.
-func turned(p []byte, i int, bits uint32) []byte {
-	q := slices.Clone(p)
-	for k := range 32 {
-		if at := i + k; bits>>k&1 == 1 && at < 8*len(q) {
-			q[at/8] ^= 1 << (at % 8)
-		}
-	}
-	return q
-}
-
 func checkBurst(t *testing.T, p []byte, i int, bits uint32) {
 	t.Helper()
-	if q := turned(p, i, bits); Fits(q) && !bytes.Equal(p, q) {
+	if q := sample.Turned(p, i, bits); Fits(q) && !bytes.Equal(p, q) {
 		t.Errorf("% x with the bits %08x from %d on turned over: % x fits", p, bits, i, q)
 	}
 }
@@ -299,7 +288,7 @@ func TestP17_4NoLongerBursts(t *testing.T) {
 	p := Seal([]byte{1, 2, 3, 4, 5})
 	for i := range 8*len(p) - 32 {
 		// From the highest power on, as the bits of a list go: 1, then those of 04c11db7.
-		checkFits(t, turned(turned(p, i, 1), i+1, 0xedb88320), true)
+		checkFits(t, sample.Turned(sample.Turned(p, i, 1), i+1, 0xedb88320), true)
 	}
 }
 

@@ -581,24 +581,8 @@ func TestMemoryOfListsApart(t *testing.T) {
 		if g.N < 3 && i%20 > 0 {
 			continue
 		}
-		h := mustBuild(t, g, someOptions()[i%len(someOptions())])
-		want := sample.CopyHier(h)
-		numbers := []*[]uint32{&h.Node, &h.UpFirst, &h.DownFirst}
-		for _, list := range numbers {
-			kept := slices.Clone(*list)
-			sample.SpoilList(*list, 7777777)
-			*list = kept
-			if !sample.SameHier(h, want) {
-				t.Fatalf("%v: two lists of numbers have memory in common", brief(g))
-			}
-		}
-		for _, list := range []*[]api.Link{&h.Up, &h.Down} {
-			kept := slices.Clone(*list)
-			sample.SpoilList(*list, api.Link{To: 7777777})
-			*list = kept
-			if !sample.SameHier(h, want) {
-				t.Fatalf("%v: two lists of links have memory in common", brief(g))
-			}
+		if !sample.ListsApart(mustBuild(t, g, someOptions()[i%len(someOptions())])) {
+			t.Fatalf("%v: two lists have memory in common", brief(g))
 		}
 	}
 }

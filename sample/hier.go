@@ -35,6 +35,29 @@ func SpoilHier(h api.Hier) {
 		func(list []api.Link) []api.Link { SpoilList(list, oddLink()); return list })
 }
 
+// ListsApart: has each of the five lists memory of its own, spare room too? They are spoilt by it.
+func ListsApart(h api.Hier) bool {
+	numbers, links := [][]uint32{h.Node, h.UpFirst, h.DownFirst}, [][]api.Link{h.Up, h.Down}
+	for i, list := range numbers {
+		SpoilList(list, oddRank+uint32(i))
+	}
+	for i, list := range links {
+		SpoilList(list, api.Link{To: oddRank + uint32(i)})
+	}
+	// What was written first is still there, if nothing was written over it.
+	for i, list := range numbers {
+		if slices.ContainsFunc(RoomOf(list), func(v uint32) bool { return v != oddRank+uint32(i) }) {
+			return false
+		}
+	}
+	for i, list := range links {
+		if slices.ContainsFunc(RoomOf(list), func(l api.Link) bool { return l.To != oddRank+uint32(i) }) {
+			return false
+		}
+	}
+	return true
+}
+
 // oddRank may stand nowhere in a hierarchy, oddLink neither.
 const oddRank = 7777777
 

@@ -120,6 +120,25 @@ func TestRoomyHier(t *testing.T) {
 	}
 }
 
+func TestListsApart(t *testing.T) {
+	if !ListsApart(Three()) || !ListsApart(RoomyHier(Three())) || !ListsApart(api.Hier{}) {
+		t.Error("lists of their own have memory in common")
+	}
+	numbers, links := make([]uint32, 8), make([]api.Link, 8)
+	for i, h := range []api.Hier{
+		{Node: numbers[:4], UpFirst: numbers[3:]},
+		{Node: numbers[:4], UpFirst: numbers[4:]}, // in the spare room
+		{Node: numbers, DownFirst: numbers},
+		{UpFirst: numbers, DownFirst: numbers[7:]},
+		{Up: links[:1], Down: links[7:]},
+		{Up: links[7:], Down: links},
+	} {
+		if ListsApart(h) {
+			t.Errorf("%d: memory in common isn't seen", i)
+		}
+	}
+}
+
 func TestShuffled(t *testing.T) {
 	dice := Dice{Seed: 5}
 	seen := map[int]bool{}

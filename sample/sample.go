@@ -130,6 +130,17 @@ func (d *Dice) Bytes(n int) []byte {
 	return list
 }
 
+// Turned: a copy with some of 32 neighbouring bits turned over, from the bit i on (of each byte the lowest first): those that are 1 in bits. What lies beyond the end is left out.
+func Turned(p []byte, i int, bits uint32) []byte {
+	q := slices.Clone(p)
+	for k := range 32 {
+		if at := i + k; bits>>k&1 == 1 && at < 8*len(q) {
+			q[at/8] ^= 1 << (at % 8)
+		}
+	}
+	return q
+}
+
 // Distances: those of a graph, the row's node to the column's, Unreached where there is no walk.
 func Distances(g api.Graph) [][]uint64 {
 	far := make([][]uint64, g.N)

@@ -113,6 +113,26 @@ func TestBytes(t *testing.T) {
 	}
 }
 
+func TestTurned(t *testing.T) {
+	p := []byte{0, 0xff, 0, 0, 0, 0}
+	for _, c := range []struct {
+		i    int
+		bits uint32
+		want []byte
+	}{
+		{0, 0, []byte{0, 0xff, 0, 0, 0, 0}},
+		{0, 1, []byte{1, 0xff, 0, 0, 0, 0}},
+		{7, 3, []byte{0x80, 0xfe, 0, 0, 0, 0}},
+		{4, 0x80000001, []byte{0x10, 0xff, 0, 0, 0x08, 0}},
+		{47, 0xffffffff, []byte{0, 0xff, 0, 0, 0, 0x80}},
+		{48, 0xffffffff, []byte{0, 0xff, 0, 0, 0, 0}},
+	} {
+		if q := Turned(p, c.i, c.bits); !slices.Equal(q, c.want) || p[1] != 0xff {
+			t.Errorf("Turned(% x, %d, %08x): % x", p, c.i, c.bits, q)
+		}
+	}
+}
+
 func TestRoomyList(t *testing.T) {
 	list := []uint32{1, 2}
 	roomy := RoomyList(list, 9)
