@@ -1,6 +1,7 @@
 package sample
 
 import (
+	"cmp"
 	"iter"
 	"math"
 	"slices"
@@ -102,24 +103,6 @@ func Flat(n, ups, downs int) api.Hier {
 	return h
 }
 
-// Doubling: n nodes with links both ways between all of them. Those at the rank 0 are plain and have this weight; at each further rank a link stands for two of the rank below, and weighs twice as much.
-func Doubling(n int, weight uint64) api.Hier {
-	pairs := n * (n - 1) / 2
-	h := Flat(n, pairs, pairs)
-	place := func(rank, to int) uint32 { return h.UpFirst[rank] + uint32(to-rank-1) } // the same in both lists
-	for rank := range n {
-		for to := rank + 1; to < n; to++ {
-			up, down := Plain(uint32(to), weight<<rank), Plain(uint32(to), weight<<rank)
-			if rank > 0 {
-				up.Left, up.Right = uint32(pairs)+place(rank-1, rank), place(rank-1, to)
-				down.Left, down.Right = uint32(pairs)+place(rank-1, to), place(rank-1, rank)
-			}
-			h.Up[place(rank, to)], h.Down[place(rank, to)] = up, down
-		}
-	}
-	return h
-}
-
 // Contracted: the hierarchy of a graph along a list of its nodes, by the plainest contraction: a shortcut for each way through a node, unless there is an arc no dearer.
 func Contracted(g api.Graph, order []int) api.Hier {
 	return contracted(g, order, func(isDearer bool) bool { return isDearer })
@@ -149,14 +132,7 @@ func contracted(g api.Graph, order []int, takes func(isDearer bool) bool) api.Hi
 		h.DownFirst = append(h.DownFirst, uint32(len(h.Down)))
 		contract(arcs, via, rank, g.N, takes)
 	}
-	for rank := range order {
-		for i := h.UpFirst[rank]; i < h.UpFirst[rank+1]; i++ {
-			lead(h, &h.Up[i], via, rank, int(h.Up[i].To))
-		}
-		for i := h.DownFirst[rank]; i < h.DownFirst[rank+1]; i++ {
-			lead(h, &h.Down[i], via, int(h.Down[i].To), rank)
-		}
-	}
+	leadAll(h, via)
 	return h
 }
 
@@ -183,6 +159,18 @@ func contract(arcs map[[2]int]uint64, via map[[2]int]int, rank, n int, takes fun
 	}
 }
 
+// leadAll names the children of all shortcuts: via tells the middles, by tail and head.
+func leadAll(h api.Hier, via map[[2]int]int) {
+	for rank := range h.Node {
+		for i := h.UpFirst[rank]; i < h.UpFirst[rank+1]; i++ {
+			lead(h, &h.Up[i], via, rank, int(h.Up[i].To))
+		}
+		for i := h.DownFirst[rank]; i < h.DownFirst[rank+1]; i++ {
+			lead(h, &h.Down[i], via, int(h.Down[i].To), rank)
+		}
+	}
+}
+
 // lead names the children of a link, if it is a shortcut.
 func lead(h api.Hier, link *api.Link, via map[[2]int]int, tail, head int) {
 	middle, is := via[[2]int{tail, head}]
@@ -191,7 +179,8 @@ func lead(h api.Hier, link *api.Link, via map[[2]int]int, tail, head int) {
 	}
 	find := func(list []api.Link, first []uint32, to int) uint32 {
 		row := list[first[middle]:first[middle+1]]
-		return first[middle] + uint32(slices.IndexFunc(row, func(l api.Link) bool { return l.To == uint32(to) }))
+		place, _ := slices.BinarySearchFunc(row, uint32(to), func(l api.Link, to uint32) int { return cmp.Compare(l.To, to) })
+		return first[middle] + uint32(place)
 	}
 	link.Left = uint32(len(h.Up)) + find(h.Down, h.DownFirst, tail)
 	link.Right = find(h.Up, h.UpFirst, head)

@@ -1,9 +1,7 @@
 package sound
 
 import (
-	"cmp"
 	"fmt"
-	"iter"
 	"math"
 	"slices"
 	"testing"
@@ -88,51 +86,7 @@ func without() api.Hier {
 }
 
 // arc: a plain link by the ranks of its ends.
-type arc struct {
-	tail, head int
-	weight     uint64
-}
-
-// plain: the hierarchy of n nodes, each at the rank of its number, and of plain links.
-func plain(n int, arcs ...arc) api.Hier {
-	ups, downs := make([]links, n), make([]links, n)
-	for _, a := range arcs {
-		if a.tail < a.head {
-			ups[a.tail] = append(ups[a.tail], sample.Plain(uint32(a.head), a.weight))
-		} else {
-			downs[a.head] = append(downs[a.head], sample.Plain(uint32(a.tail), a.weight))
-		}
-	}
-	h := api.Hier{UpFirst: numbers{0}, DownFirst: numbers{0}}
-	byTo := func(a, b api.Link) int { return cmp.Compare(a.To, b.To) }
-	for rank := range n {
-		h.Node = append(h.Node, uint32(rank))
-		slices.SortFunc(ups[rank], byTo)
-		slices.SortFunc(downs[rank], byTo)
-		h.Up, h.Down = append(h.Up, ups[rank]...), append(h.Down, downs[rank]...)
-		h.UpFirst, h.DownFirst = append(h.UpFirst, uint32(len(h.Up))), append(h.DownFirst, uint32(len(h.Down)))
-	}
-	return h
-}
-
-// both: a plain link there and one back.
-func both(a, b int, weight uint64) []arc {
-	return []arc{{a, b, weight}, {b, a, weight}}
-}
-
-// loose: many hierarchies in form, some true, the others false at some rank.
-func loose(seed uint64, count, most int) iter.Seq[api.Hier] {
-	return func(yield func(api.Hier) bool) {
-		dice := sample.Dice{Seed: seed}
-		for range count {
-			n := 1 + dice.Below(most)
-			g := dice.Graph(n, dice.Below(5*n), []int{0, 1, 3, 20, api.MaxWeight}[dice.Below(5)])
-			if !yield(dice.Loose(g, dice.Shuffled(n), []int{0, 2, 10, 30}[dice.Below(4)])) {
-				return
-			}
-		}
-	}
-}
+type arc = [3]int
 
 // arcsAbove: the links both ends of which lie above r, as arcs between ranks.
 func arcsAbove(h api.Hier, r int) api.Graph {
@@ -154,10 +108,10 @@ func TestP16_1Examples(t *testing.T) {
 }
 
 func TestP16_1FewNodes(t *testing.T) {
-	checkTrue(t, plain(0), nil)
-	checkTrue(t, plain(1), nil)
-	checkTrue(t, plain(2), nil)
-	checkTrue(t, plain(2, both(0, 1, 9)...), nil)
+	checkTrue(t, sample.PlainHier(0), nil)
+	checkTrue(t, sample.PlainHier(1), nil)
+	checkTrue(t, sample.PlainHier(2), nil)
+	checkTrue(t, sample.PlainHier(2, sample.BothWays(0, 1, 9)...), nil)
 	checkTrue(t, api.Hier{Node: numbers{1, 0}, UpFirst: numbers{0, 0, 0}, DownFirst: numbers{0, 1, 1}, Down: links{sample.Plain(1, 0)}}, nil)
 }
 
@@ -186,7 +140,7 @@ func TestP16_1Walks(t *testing.T) {
 		{"up once, down twice", 5, []arc{{1, 4, 3}, {4, 3, 3}, {3, 2, 3}}, -1},
 		{"up once, down twice, longer", 5, []arc{{1, 4, 3}, {4, 3, 4}, {3, 2, 3}}, 0},
 	} {
-		h := plain(c.n, append(slices.Clone(way), c.arcs...)...)
+		h := sample.PlainHier(c.n, append(slices.Clone(way), c.arcs...)...)
 		if err := Check(h); (c.want < 0) != (err == nil) || c.want == 0 && !sample.SameError(err, falseAt(0)) {
 			t.Errorf("%s: %v", c.name, err)
 		}
@@ -194,22 +148,22 @@ func TestP16_1Walks(t *testing.T) {
 			t.Errorf("%s: false at %d", c.name, first)
 		}
 	}
-	checkTrue(t, plain(4, slices.Concat(both(0, 3, 1), both(1, 3, 1), both(2, 3, 1))...), nil)
+	checkTrue(t, sample.PlainHier(4, slices.Concat(sample.BothWays(0, 3, 1), sample.BothWays(1, 3, 1), sample.BothWays(2, 3, 1))...), nil)
 }
 
 // A walk over a rank that lies below the two ends, but above the rank that is asked, counts; the ranks in between are asked by themselves.
 func TestP16_1FalseAbove(t *testing.T) {
 	valley := []arc{{2, 0, 5}, {0, 3, 5}, {2, 1, 1}, {1, 3, 1}}
-	checkTrue(t, plain(4, valley...), falseAt(1))
-	checkTrue(t, plain(4, append(valley, arc{2, 3, 2})...), nil)
-	checkTrue(t, plain(4, append(valley, arc{2, 3, 3})...), falseAt(1))
+	checkTrue(t, sample.PlainHier(4, valley...), falseAt(1))
+	checkTrue(t, sample.PlainHier(4, append(valley, arc{2, 3, 2})...), nil)
+	checkTrue(t, sample.PlainHier(4, append(valley, arc{2, 3, 3})...), falseAt(1))
 	// A walk over the rank itself, or over one below it, doesn't count.
-	checkTrue(t, plain(4, arc{2, 1, 5}, arc{1, 3, 5}, arc{2, 0, 1}, arc{0, 3, 1}), falseAt(0))
-	checkTrue(t, plain(4, arc{2, 0, 5}, arc{0, 3, 5}, arc{2, 3, 10}, arc{2, 1, 5}, arc{1, 3, 4}), falseAt(1))
+	checkTrue(t, sample.PlainHier(4, arc{2, 1, 5}, arc{1, 3, 5}, arc{2, 0, 1}, arc{0, 3, 1}), falseAt(0))
+	checkTrue(t, sample.PlainHier(4, arc{2, 0, 5}, arc{0, 3, 5}, arc{2, 3, 10}, arc{2, 1, 5}, arc{1, 3, 4}), falseAt(1))
 	// Of several ranks the first one is told.
-	checkTrue(t, plain(6, arc{3, 2, 1}, arc{2, 4, 1}, arc{4, 3, 1}, arc{3, 5, 1}), falseAt(2))
-	checkTrue(t, plain(6, arc{3, 2, 1}, arc{2, 4, 1}, arc{3, 1, 1}, arc{1, 4, 1}, arc{5, 3, 1}), falseAt(2))
-	checkTrue(t, plain(6, arc{3, 2, 1}, arc{2, 4, 1}, arc{3, 1, 1}, arc{1, 5, 1}), falseAt(1))
+	checkTrue(t, sample.PlainHier(6, arc{3, 2, 1}, arc{2, 4, 1}, arc{4, 3, 1}, arc{3, 5, 1}), falseAt(2))
+	checkTrue(t, sample.PlainHier(6, arc{3, 2, 1}, arc{2, 4, 1}, arc{3, 1, 1}, arc{1, 4, 1}, arc{5, 3, 1}), falseAt(2))
+	checkTrue(t, sample.PlainHier(6, arc{3, 2, 1}, arc{2, 4, 1}, arc{3, 1, 1}, arc{1, 5, 1}), falseAt(1))
 }
 
 // Each hierarchy of three nodes with plain links of few weights.
@@ -220,11 +174,11 @@ func TestP16_1AllOfThree(t *testing.T) {
 		var arcs []arc
 		for _, p := range pairs {
 			if weight := code % 5; weight > 0 {
-				arcs = append(arcs, arc{p[0], p[1], uint64(weight - 1)})
+				arcs = append(arcs, arc{p[0], p[1], weight - 1})
 			}
 			code /= 5
 		}
-		h := plain(3, arcs...)
+		h := sample.PlainHier(3, arcs...)
 		first := sample.FirstFalse(h)
 		checkFirstFalse(t, h, first)
 		seen[first]++
@@ -236,7 +190,7 @@ func TestP16_1AllOfThree(t *testing.T) {
 
 func TestP16_1AsTheModel(t *testing.T) {
 	seen, dispelled := map[int]int{}, 0
-	for h := range loose(161, 20000, 12) {
+	for h := range sample.LooseHiers(161, 20000, 12) {
 		first := sample.FirstFalse(h)
 		checkFirstFalse(t, h, first)
 		seen[first]++
@@ -254,21 +208,21 @@ func TestP16_1AsTheModel(t *testing.T) {
 }
 
 func TestP16_1AsTheModelAtLength(t *testing.T) {
-	for h := range loose(1610, 150, 60) {
+	for h := range sample.LooseHiers(1610, 150, 60) {
 		checkFirstFalse(t, h, sample.FirstFalse(h))
 	}
 }
 
 // Ways over tell of every true hierarchy that it is, so that no search above single ranks is made.
 func TestP16_1NoDoubtOfTrueOnes(t *testing.T) {
-	for h := range loose(1611, 5000, 12) {
+	for h := range sample.LooseHiers(1611, 5000, 12) {
 		all := doubts(newNet(h))
 		if first := sample.FirstFalse(h); (first < 0) != (len(all) == 0) {
 			t.Errorf("%s is false at %d, the doubts %v", brief(h), first, all)
 		}
 	}
 	// A rank to which a link leads that is too dear, and then a way up that is not.
-	h := plain(6, arc{1, 0, 5}, arc{0, 2, 5}, arc{1, 4, 99}, arc{1, 3, 1}, arc{3, 4, 1}, arc{4, 5, 1}, arc{5, 2, 1})
+	h := sample.PlainHier(6, arc{1, 0, 5}, arc{0, 2, 5}, arc{1, 4, 99}, arc{1, 3, 1}, arc{3, 4, 1}, arc{4, 5, 1}, arc{5, 2, 1})
 	if all := doubts(newNet(h)); len(all) > 0 || sample.FirstFalse(h) >= 0 {
 		t.Errorf("%s: the doubts %v", brief(h), all)
 	}
@@ -304,11 +258,11 @@ func TestP16_1Made(t *testing.T) {
 
 func TestP16_1Weights(t *testing.T) {
 	// The weights double from rank to rank, up to MaxTotal; the links at the rank 0 are cheaper by far.
-	for _, weight := range []uint64{0, 1, api.MaxWeight} {
+	for _, weight := range []int{0, 1, api.MaxWeight} {
 		h := sample.Doubling(17, weight)
 		checkFirstFalse(t, h, sample.FirstFalse(h))
 	}
-	h := plain(4, arc{1, 0, api.MaxWeight}, arc{0, 2, api.MaxWeight}, arc{1, 3, api.MaxWeight}, arc{3, 2, api.MaxWeight})
+	h := sample.PlainHier(4, arc{1, 0, api.MaxWeight}, arc{0, 2, api.MaxWeight}, arc{1, 3, api.MaxWeight}, arc{3, 2, api.MaxWeight})
 	checkTrue(t, h, nil)
 	h.Down[0].Weight--
 	checkTrue(t, h, falseAt(0))
@@ -341,7 +295,7 @@ func TestP16_2Examples(t *testing.T) {
 
 // Each rank at or below r is gone, with its links; ranks are asked, not nodes.
 func TestP16_2Ranks(t *testing.T) {
-	h := plain(5, slices.Concat(both(0, 4, 1), both(0, 3, 1), both(1, 4, 2), both(1, 3, 2), both(2, 4, 3), both(2, 3, 3), both(3, 4, 9))...)
+	h := sample.PlainHier(5, slices.Concat(sample.BothWays(0, 4, 1), sample.BothWays(0, 3, 1), sample.BothWays(1, 4, 2), sample.BothWays(1, 3, 2), sample.BothWays(2, 4, 3), sample.BothWays(2, 3, 3), sample.BothWays(3, 4, 9))...)
 	for r, want := range []uint64{4, 6, 9} {
 		checkAbove(t, h, r, 3, 4, want)
 		checkAbove(t, h, r, 4, 3, want)
@@ -354,7 +308,7 @@ func TestP16_2Ranks(t *testing.T) {
 
 func TestP16_2AsTheModel(t *testing.T) {
 	walks, none := 0, 0
-	for h := range loose(162, 300, 9) {
+	for h := range sample.LooseHiers(162, 300, 9) {
 		n := len(h.Node)
 		for r := -1; r < n; r++ {
 			dist := sample.Distances(arcsAbove(h, r))
@@ -382,18 +336,9 @@ func TestP16_2LongWays(t *testing.T) {
 	checkAbove(t, h, 14, 15, 16, api.MaxWeight<<15)
 	checkAbove(t, h, -1, 15, 16, 2*api.MaxWeight)
 	const n = api.MaxNodes
-	checkAbove(t, chain(n, api.MaxWeight), -1, 0, n-1, (n-1)*api.MaxWeight)
-	checkAbove(t, chain(n, api.MaxWeight), 3, n-1, 4, (n-5)*api.MaxWeight)
-	checkAbove(t, chain(n, 0), -1, n-1, 0, 0)
-}
-
-// chain: each rank has links to the next one and back.
-func chain(n int, weight uint64) api.Hier {
-	var arcs []arc
-	for rank := range n - 1 {
-		arcs = append(arcs, both(rank, rank+1, weight)...)
-	}
-	return plain(n, arcs...)
+	checkAbove(t, sample.Chain(n, api.MaxWeight), -1, 0, n-1, (n-1)*api.MaxWeight)
+	checkAbove(t, sample.Chain(n, api.MaxWeight), 3, n-1, 4, (n-5)*api.MaxWeight)
+	checkAbove(t, sample.Chain(n, 0), -1, n-1, 0, 0)
 }
 
 func TestErrorsOfAbove(t *testing.T) {
@@ -426,11 +371,11 @@ func TestErrorsOfAbove(t *testing.T) {
 	}
 	checkAboveRefused(t, h, -1, -1, 2, api.ErrNode)
 	checkAboveRefused(t, h, -1, 2, -1, api.ErrNode)
-	checkAboveRefused(t, plain(0), -1, 0, 0, api.ErrNode)
-	checkAboveRefused(t, plain(0), 0, 0, 0, api.ErrArg)
-	checkAbove(t, plain(1), -1, 0, 0, 0)
-	checkAboveRefused(t, plain(1), 0, 0, 0, api.ErrNode)
-	checkAboveRefused(t, plain(1), 1, 0, 0, api.ErrArg)
+	checkAboveRefused(t, sample.PlainHier(0), -1, 0, 0, api.ErrNode)
+	checkAboveRefused(t, sample.PlainHier(0), 0, 0, 0, api.ErrArg)
+	checkAbove(t, sample.PlainHier(1), -1, 0, 0, 0)
+	checkAboveRefused(t, sample.PlainHier(1), 0, 0, 0, api.ErrNode)
+	checkAboveRefused(t, sample.PlainHier(1), 1, 0, 0, api.ErrArg)
 }
 
 func TestErrorsOfForm(t *testing.T) {
@@ -446,7 +391,7 @@ func TestErrorsOfForm(t *testing.T) {
 	h := without()
 	h.Node[2] = 3
 	checkTrue(t, h, fault.At(api.AtNode, 2, api.ErrOrder))
-	h = plain(2000)
+	h = sample.PlainHier(2000)
 	h.Node[7] = 6
 	checkMatrixRefused(t, h, fault.At(api.AtNode, 7, api.ErrOrder))
 }
@@ -454,13 +399,13 @@ func TestErrorsOfForm(t *testing.T) {
 func TestP16_3Examples(t *testing.T) {
 	checkMatrix(t, sample.Three(), table{{0, 4, 5}, {far, 0, 1}, {far, far, 0}})
 	checkMatrix(t, without(), table{{0, 4, 5}, {far, 0, 1}, {far, far, 0}})
-	checkMatrix(t, plain(0), nil)
-	checkMatrix(t, plain(1), table{{0}})
-	checkMatrix(t, plain(2), table{{0, far}, {far, 0}})
+	checkMatrix(t, sample.PlainHier(0), nil)
+	checkMatrix(t, sample.PlainHier(1), table{{0}})
+	checkMatrix(t, sample.PlainHier(2), table{{0, far}, {far, 0}})
 }
 
 func TestP16_3AsTheModel(t *testing.T) {
-	for h := range loose(163, 2000, 10) {
+	for h := range sample.LooseHiers(163, 2000, 10) {
 		dist := sample.Distances(arcsAbove(h, -1))
 		want := make(table, len(h.Node))
 		for r, node := range h.Node {
@@ -478,17 +423,17 @@ func TestP16_3Limit(t *testing.T) {
 	if n*n != api.MaxTable {
 		t.Fatal("the table is too wide or too narrow")
 	}
-	rows, err := Matrix(chain(n, 3))
+	rows, err := Matrix(sample.Chain(n, 3))
 	if err != nil || len(rows) != n || rows[1][n-1] != 3*(n-2) || rows[n-1][0] != 3*(n-1) || rows[5][5] != 0 {
 		t.Errorf("%d rows, %v", len(rows), err)
 	}
-	checkMatrixRefused(t, chain(n+1, 3), api.ErrLimit)
-	checkMatrixRefused(t, plain(n+1), api.ErrLimit)
-	checkMatrixRefused(t, plain(api.MaxNodes), api.ErrLimit)
+	checkMatrixRefused(t, sample.Chain(n+1, 3), api.ErrLimit)
+	checkMatrixRefused(t, sample.PlainHier(n+1), api.ErrLimit)
+	checkMatrixRefused(t, sample.PlainHier(api.MaxNodes), api.ErrLimit)
 }
 
 func TestP16_4MatrixOfGraph(t *testing.T) {
-	for h := range loose(164, 1000, 15) {
+	for h := range sample.LooseHiers(164, 1000, 15) {
 		g, err := hier.Graph(h)
 		if err != nil {
 			t.Fatal(err)
@@ -507,7 +452,7 @@ func TestP16_4MatrixOfGraph(t *testing.T) {
 
 func TestP16_4Turned(t *testing.T) {
 	falseOnes := 0
-	for h := range loose(165, 3000, 10) {
+	for h := range sample.LooseHiers(165, 3000, 10) {
 		turned, err := hier.Turn(h)
 		if err != nil {
 			t.Fatal(err)
@@ -529,18 +474,18 @@ func hubs(n, low int) api.Hier {
 	var arcs []arc
 	for rank := range n - 1 {
 		for to := rank + 1; rank < low && to < n-1; to++ {
-			arcs = append(arcs, both(rank, to, 9)...)
+			arcs = append(arcs, sample.BothWays(rank, to, 9)...)
 		}
-		arcs = append(arcs, both(rank, n-1, 9)...)
+		arcs = append(arcs, sample.BothWays(rank, n-1, 9)...)
 	}
-	return plain(n, arcs...)
+	return sample.PlainHier(n, arcs...)
 }
 
 func TestGreatestHierarchies(t *testing.T) {
 	const n = api.MaxNodes
-	checkTrue(t, plain(n), nil)
-	checkTrue(t, chain(n, api.MaxWeight), nil)
-	checkTrue(t, chain(n, 0), nil)
+	checkTrue(t, sample.PlainHier(n), nil)
+	checkTrue(t, sample.Chain(n, api.MaxWeight), nil)
+	checkTrue(t, sample.Chain(n, 0), nil)
 	checkTrue(t, hubs(n, 0), nil)
 	checkTrue(t, hubs(2000, 3), nil)
 	h := hubs(n, 1)
@@ -562,14 +507,14 @@ func TestGreatestWaysOver(t *testing.T) {
 			arcs = append(arcs, arc{rank + 2, rank, 1})
 		}
 	}
-	checkJustTrue(t, plain(n, arcs...), n-2)
+	checkJustTrue(t, sample.PlainHier(n, arcs...), n-2)
 
 	// Up at once, then down through all ranks; and turned about.
 	arcs = []arc{{1, 0, 2}, {0, 2, n - 4}, {1, n - 1, 1}}
 	for rank := 2; rank+1 < n; rank++ {
 		arcs = append(arcs, arc{rank + 1, rank, 1})
 	}
-	h := plain(n, arcs...)
+	h := sample.PlainHier(n, arcs...)
 	checkJustTrue(t, h, n-2)
 	turned, err := hier.Turn(h)
 	if err != nil {
@@ -646,7 +591,7 @@ func TestQuestionsChangeNothing(t *testing.T) {
 		checkTrue(t, sample.Three(), nil)
 		checkAbove(t, sample.Three(), 0, 1, 2, 5)
 		checkAboveRefused(t, without(), 0, 1, 2, api.ErrNoWalk)
-		checkMatrix(t, plain(1), table{{0}})
+		checkMatrix(t, sample.PlainHier(1), table{{0}})
 		checkTrue(t, api.Hier{}, api.ErrShape)
 		checkMatrix(t, sample.Three(), table{{0, 4, 5}, {far, 0, 1}, {far, far, 0}})
 	}
