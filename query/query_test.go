@@ -247,19 +247,6 @@ func TestP21_2AnyInForm(t *testing.T) {
 	}
 }
 
-// options: of all kinds, and beyond their ranges.
-func options() []api.Options {
-	return []api.Options{
-		{},
-		{Hops: 5, Settles: 50, Edge: 2, Deleted: 1, Depth: 1},
-		{Hops: 1, Settles: 1, Edge: 1},
-		{Hops: 99, Settles: 999, Depth: 1},
-		{Hops: 3, Settles: 4, Edge: -1, Deleted: -2, Depth: -3},
-		{Hops: -5, Settles: -5, Edge: 1000, Deleted: -1000},
-		{Hops: math.MaxInt, Settles: math.MaxInt, Edge: math.MinInt, Deleted: math.MaxInt, Depth: math.MinInt},
-	}
-}
-
 // checkRoads (P3, P8): whatever the options and the order, the distances are those of the graph.
 func checkRoads(t *testing.T, g api.Graph, opts api.Options, list []int) {
 	t.Helper()
@@ -277,7 +264,7 @@ func checkRoads(t *testing.T, g api.Graph, opts api.Options, list []int) {
 }
 
 func TestP3P8SmallGraphs(t *testing.T) {
-	all, dice := options(), sample.Dice{Seed: 215}
+	all, dice := sample.Options(), sample.Dice{Seed: 215}
 	i := 0
 	for g := range sample.Some() {
 		checkRoads(t, g, all[i%len(all)], dice.Shuffled(g.N))
@@ -290,7 +277,7 @@ func TestP3P8EachOption(t *testing.T) {
 	for range 12 {
 		n := 1 + dice.Below(14)
 		g := dice.Graph(n, dice.Below(4*n), []int{1, 30, api.MaxWeight}[dice.Below(3)])
-		for _, opts := range options() {
+		for _, opts := range sample.Options() {
 			for range 3 {
 				checkRoads(t, g, opts, dice.Shuffled(n))
 			}
@@ -333,30 +320,14 @@ func orders(n int) func(func([]int) bool) {
 	}
 }
 
-// grid: a net of streets, some of which lead one way.
-func grid(wide int, dice *sample.Dice) api.Graph {
-	g := api.Graph{N: wide * wide}
-	for v := range g.N {
-		for _, to := range []int{v + 1, v + wide} {
-			if to < g.N && (to != v+1 || to%wide != 0) {
-				g.Arcs = append(g.Arcs, api.Arc{From: v, To: to, Weight: 1 + dice.Below(20)})
-				if dice.Below(4) > 0 {
-					g.Arcs = append(g.Arcs, api.Arc{From: to, To: v, Weight: 1 + dice.Below(20)})
-				}
-			}
-		}
-	}
-	return g
-}
-
-func TestP3P8Grid(t *testing.T) {
+func TestP3P8Streets(t *testing.T) {
 	dice := sample.Dice{Seed: 218}
-	g := grid(25, &dice)
+	g := dice.Streets(25)
 	c, err := csr.Build(g)
 	if err != nil {
 		t.Fatal(err)
 	}
-	for i, opts := range options()[1:4] {
+	for i, opts := range sample.Options()[1:4] {
 		h, err := order.Build(g, opts)
 		if err != nil {
 			t.Fatal(err)
